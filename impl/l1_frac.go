@@ -216,12 +216,21 @@ func reduce(num *big.Int, den *big.Int) ratio {
 	}
 	for common := smallCommon(n, d); common > 1; common = smallCommon(n, d) {
 		divideBoth(n, d, big.NewInt(common))
+		dropTwos(n, d)
 	}
 	// Short lower numbers are often 1 by now, and then Euclid has nothing to do.
 	if !isOne(d) {
 		divideBoth(n, d, greatestCommon(n, d))
 	}
 	return ratio{n, d}
+}
+
+// dropTwos takes off all twos in common at once: what is made of floats has
+// many of them, and one division a two would be slow.
+func dropTwos(n *big.Int, d *big.Int) {
+	twos := min(n.TrailingZeroBits(), d.TrailingZeroBits())
+	n.Rsh(n, twos)
+	d.Rsh(d, twos)
 }
 
 func divideBoth(n *big.Int, d *big.Int, by *big.Int) {
