@@ -148,6 +148,18 @@ func readFrac(s string) (ratio, bool) {
 	return ratio{num, den}, true
 }
 
+func readFracs(l []string) ([]ratio, bool) {
+	read := make([]ratio, 0, len(l))
+	for _, s := range l {
+		r, good := readFrac(s)
+		if !good {
+			return nil, false
+		}
+		read = append(read, r)
+	}
+	return read, true
+}
+
 func readTwo(a string, b string) (ratio, ratio, bool) {
 	x, goodX := readFrac(a)
 	y, goodY := readFrac(b)
@@ -192,6 +204,19 @@ func tellFrac(r ratio) string {
 		return above
 	}
 	return above + "/" + below
+}
+
+// tellFracs is the nil list and false where a number is beyond MaxDigits.
+func tellFracs(l []ratio) ([]string, bool) {
+	told := make([]string, 0, len(l))
+	for _, r := range l {
+		s := tellFrac(r)
+		if s == "" {
+			return nil, false
+		}
+		told = append(told, s)
+	}
+	return told, true
 }
 
 func tellWhole(n *big.Int) (string, bool) {
