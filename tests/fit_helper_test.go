@@ -59,18 +59,24 @@ func belowSets(m [][]*big.Rat) []int {
 
 func isInfo(t *testing.T, i impl.Info) bool {
 	t.Helper()
-	n := len(i.M)
-	if n < 1 || n > mostVars || !areFracs(i.V, n) || !isFrac(i.C) || slices.ContainsFunc(i.M, func(l []string) bool { return !areFracs(l, n) }) {
+	return len(i.M) <= mostVars && isHalfSure(t, i.M) && areFracs(i.V, len(i.M)) && isFrac(i.C)
+}
+
+// isHalfSure is asked for few rows, as it tries all sets of them.
+func isHalfSure(t *testing.T, m [][]string) bool {
+	t.Helper()
+	n := len(m)
+	if n < 1 || slices.ContainsFunc(m, func(l []string) bool { return !areFracs(l, n) }) {
 		return false
 	}
 	for r := range n {
 		for c := range n {
-			if i.M[r][c] != i.M[c][r] {
+			if m[r][c] != m[c][r] {
 				return false
 			}
 		}
 	}
-	return len(belowSets(ratRows(t, i.M))) == 0
+	return len(belowSets(ratRows(t, m))) == 0
 }
 
 func gramOf(t *testing.T, i impl.Info) gram {

@@ -266,22 +266,23 @@ func TestWhatLiesBehindFits(t *testing.T) {
 	}
 }
 
-// spoilInfo writes into each list of an info, one after the other, and sees that the lists behind it stay.
-func spoilInfo(t *testing.T, i impl.Info, want impl.Info) {
+// spoilBeside writes into each row and into the list beside them, one after the other, and sees that the others stay.
+func spoilBeside(t *testing.T, m [][]string, l []string) {
 	t.Helper()
-	for k := range i.M {
-		spoil(i.M[k], "x")
-		if !sameRows(i.M[k+1:], want.M[k+1:]) || !slices.Equal(i.V, want.V) {
-			t.Fatalf("the lists of an info share memory: %q, was %q", i, want)
+	rows, list := cloneRows(m), slices.Clone(l)
+	for k := range m {
+		spoil(m[k], "x")
+		if !sameRows(m[k+1:], rows[k+1:]) || !slices.Equal(l, list) {
+			t.Fatalf("lists of one answer share memory: %q and %q, were %q and %q", m, l, rows, list)
 		}
 	}
-	spoil(i.V, "y")
-	for _, row := range i.M {
+	spoil(l, "y")
+	for _, row := range m {
 		if slices.Contains(row, "y") {
-			t.Fatalf("the lists of an info share memory: %q, was %q", i, want)
+			t.Fatalf("lists of one answer share memory: %q and %q, were %q and %q", m, l, rows, list)
 		}
 	}
-	spoil(i.M, nil)
+	spoil(m, nil)
 }
 
 // Whoever writes into an answer changes nothing else: no other list of it, no later answer, no argument.
@@ -298,7 +299,7 @@ func TestFitAnswersAreNewMemory(t *testing.T) {
 					func() (impl.Info, bool) { return impl.DropLast(q.one) },
 				} {
 					i, _ := ask()
-					spoilInfo(t, i, cloneInfo(i))
+					spoilBeside(t, i.M, i.V)
 				}
 				a, _ := impl.SolveFit(q.fit, vars)
 				spoil(a.X, "x")
