@@ -197,44 +197,73 @@ func TestStretchTrackOfLongNumbers(t *testing.T) {
 	}
 }
 
-// A number by which the stretched track can't be told is passed over.
-func TestLeastStretchOfLongNumbers(t *testing.T) {
+// Told by the number that is asked for, and by whether StretchTrack by it can be told.
+func TestLeastStretchOfLongTimes(t *testing.T) {
+	long := nines(400)
+	straight, resting := "0 0 1 | "+long+" "+long+" 1", "0 0 0 | "+long+" "+long+" 0"
+	half, early := "0 0 1 | 4"+nines(399)+" 4"+nines(399)+" 1", "-"+long+" 0 1 | 0 "+long+" 1"
+	for _, c := range []leastCase{
+		{straight, "1 0 0", 1, true}, {straight, "999/1000 0 0", 2, false}, {straight, "1/2 0 0", 2, false}, {straight, "1/3 0 0", 3, false},
+		{straight, "1/59 0 0", 59, false}, {straight, "1/60 0 0", 60, false}, {straight, "1/61 0 0", 0, false}, {straight, "0 0 0", 0, false},
+		// The greatest speed is 3/2, push and jerk are far below 1.
+		{resting, "3/2 1 1", 1, true}, {resting, "1 1 1", 2, false}, {resting, "3/4 1 1", 2, false}, {resting, "1/2 1 1", 3, false},
+		{resting, "1/40 1 1", 60, false}, {resting, "1/41 1 1", 0, false}, {resting, "1 0 1", 0, false}, {resting, "1 1 0", 0, false},
+		// By 2 it can be told, from 3 on it can't.
+		{half, "1/2 0 0", 2, true}, {half, "1/3 0 0", 3, false}, {half, "1/60 0 0", 60, false}, {half, "1/61 0 0", 0, false},
+		{early, "1/2 0 0", 2, true}, {early, "1/3 0 0", 3, false}, {early, "1/60 0 0", 60, false}, {early, "1/61 0 0", 0, false},
+		// The piece ahead of the long one decides.
+		{"0 0 7 | 1 7 7 | " + long + " 7 0", "1 1 1", 7, false}, {"0 0 7 | 1 7 7 | " + long + " 7 0", "1/9 1 1", 0, false},
+		// A fraction whose upper number gets too long; its speed is a little above 1.
+		{"1/" + odd() + " 0 1 | 1 1 1", "2 1 1", 1, true}, {"1/" + odd() + " 0 1 | 1 1 1", "1 1 1", 2, false}, {"1/" + odd() + " 0 1 | 1 1 1", "1/60 1 1", 0, false},
+		// What stands still keeps everything.
+		{"0 5 0 | " + long + " 5 0", "0 0 0", 1, true},
+	} {
+		c.check(t)
+	}
+}
+
+func TestLeastStretchOfLongSpeeds(t *testing.T) {
 	n := rat(t, odd())
-	// Between 1 / n and 6 / (5 n), between that and 3 / (2 n), between that and 2 / n: numbers whose texts are short enough.
+	// Limits of above/below by n, a little more, that are short enough to be told.
 	over := func(above int64, below int64) string {
-		r := new(big.Rat).Quo(n, big.NewRat(above, below))
-		return textOf(new(big.Rat).SetFrac(big.NewInt(1), new(big.Int).Quo(r.Num(), r.Denom())))
+		r := quotient(n, big.NewRat(above, below))
+		return "1/" + new(big.Int).Quo(r.Num(), r.Denom()).String() + " 0 0"
 	}
-	l := trackOf("0 0 6/" + odd() + " | 1 6/" + odd() + " 6/" + odd())
-	for _, c := range []struct {
-		speed string
-		want  int
-	}{
-		{"6/" + odd(), 1}, {"5/" + odd(), 2}, {"3/" + odd(), 2}, {over(29, 10), 3}, {"2/" + odd(), 3},
-		{over(19, 10), 6}, {over(16, 10), 6}, {over(13, 10), 6}, {over(11, 10), 6}, {"1/" + odd(), 6}, {"1/" + nines(400), 0}, {"0", 0},
+	six, tiny := "0 0 6/"+odd()+" | 1 6/"+odd()+" 6/"+odd(), "1/"+odd()
+	ends := "0 0 " + tiny + " | 1 1 " + tiny
+	for _, c := range []leastCase{
+		{six, "6/" + odd() + " 0 0", 1, true}, {six, "5/" + odd() + " 0 0", 2, true}, {six, over(29, 10), 3, true}, {six, "2/" + odd() + " 0 0", 3, true},
+		{six, over(19, 10), 4, false}, {six, over(16, 10), 4, false}, {six, over(13, 10), 5, false}, {six, over(11, 10), 6, true}, {six, "1/" + odd() + " 0 0", 6, true},
+		{six, "1/" + nines(400) + " 0 0", 7, false}, {six, "0 0 0", 0, false},
+		// The greatest speed is a little less than 3/2, the push than 6, the jerk than 12.
+		{ends, "3/2 6 12", 1, true}, {ends, "1 9 99", 2, false}, {ends, "1/2 9 99", 3, false}, {ends, "1/40 9 99", 60, false}, {ends, "1/41 9 99", 0, false},
+		{ends, "9 6/49 99", 7, false}, {ends, "9 1/600 99", 60, false}, {ends, "9 1/601 99", 0, false},
+		{ends, "9 9 12/1331", 11, false}, {ends, "9 9 1/18000", 60, false}, {ends, "9 9 1/18001", 0, false},
+		{"0 0 1/" + nines(400) + " | 1 1 0", "1 9 99", 2, false}, {"0 0 0 | 1 -1 -1/" + nines(400), "1 9 99", 2, false},
+		{"0 0 0 | 1 1 0 | 2 1 1/" + nines(400), "1 9 99", 2, false}, {"0 0 0 | 1 1 0 | 2 1 1/" + nines(400), "1/60 9 99", 0, false},
+		// Time and Speed both.
+		{"0 0 " + tiny + " | " + nines(400) + " " + nines(400) + " 0", "1 1 1", 2, false},
 	} {
-		m := impl.Limits{Speed: c.speed, Push: "0", Jerk: "0"}
-		if got := impl.LeastStretch(l, m); got != c.want {
-			t.Errorf("LeastStretch of %.200q with the speed %.40s: %d, want %d", l, c.speed, got, c.want)
-		}
-		checkLeastStretch(t, l, m)
+		c.check(t)
 	}
-	for _, c := range []struct {
-		l, m string
-		want int
-	}{
-		// By 2 the last Time is too long, by 1 the limits are not kept.
-		{"0 0 1 | " + nines(400) + " " + nines(400) + " 1", "1/2 0 0", 0},
-		{"0 0 1 | " + nines(400) + " " + nines(400) + " 1", "1 0 0", 1},
-		{"0 0 1 | 4" + nines(399) + " 4" + nines(399) + " 1", "1/2 0 0", 2},
-		{"0 0 1 | 4" + nines(399) + " 4" + nines(399) + " 1", "1/3 0 0", 0},
-		{"-" + nines(400) + " 0 1 | 0 " + nines(400) + " 1", "1/2 0 0", 2},
-		{"-" + nines(400) + " 0 1 | 0 " + nines(400) + " 1", "1/3 0 0", 0},
-	} {
-		if got := impl.LeastStretch(trackOf(c.l), limitsOf(c.m)); got != c.want {
-			t.Errorf("LeastStretch of %.300s, %s: %d, want %d", c.l, c.m, got, c.want)
-		}
-		checkLeastStretch(t, trackOf(c.l), limitsOf(c.m))
+}
+
+// leastCase is a track, its limits, what LeastStretch is to answer, and whether StretchTrack by that can be told.
+type leastCase struct {
+	l, m string
+	want int
+	told bool
+}
+
+func (c leastCase) check(t *testing.T) {
+	t.Helper()
+	l, m := trackOf(c.l), limitsOf(c.m)
+	if got := impl.LeastStretch(l, m); got != c.want {
+		t.Errorf("LeastStretch of %.300q, %.100q: %d, want %d", l, m, got, c.want)
+	}
+	checkLeastStretch(t, l, m)
+	if _, ok := impl.StretchTrack(l, impl.FracOf(c.want, 1)); ok != c.told {
+		t.Errorf("StretchTrack of %.300q by %d: %v", l, c.want, ok)
 	}
 }
 
