@@ -1,6 +1,7 @@
 package tests
 
 import (
+	"iter"
 	"math/rand"
 	"slices"
 	"strings"
@@ -59,6 +60,38 @@ func sameCells(a impl.Cells, b impl.Cells) bool {
 
 func sameCounts(a impl.Counts, b impl.Counts) bool {
 	return a.Wide == b.Wide && slices.Equal(a.Hits, b.Hits) && slices.Equal(a.Misses, b.Misses)
+}
+
+// manySides are cells that are all free, most of them no whole rows, too few, too many or too wide.
+func manySides() []impl.Cells {
+	all := []impl.Cells{{}, {Wide: 1}, {Wide: 1, Cells: []int{}}}
+	wides := append([]int{-16, -256, 256, 1 << 32, -1 << 32, 1<<62 + 1}, farInts...)
+	for wide := -2; wide <= mostWide+3; wide++ {
+		wides = append(wides, wide)
+	}
+	for _, wide := range wides {
+		for _, n := range []int{0, 1, 2, 3, 4, 15, 16, 17, 31, 32, 33, 34, 36, 37, 255, 256, 257, 272, 288, 289} {
+			all = append(all, impl.Cells{Wide: wide, Cells: make([]int, n)})
+		}
+	}
+	return all
+}
+
+// wrongKinds have a number that is no kind of cell, at the first, a middle and the last place.
+func wrongKinds() iter.Seq[impl.Cells] {
+	return func(yield func(impl.Cells) bool) {
+		for _, sides := range [][]int{{1, 1}, {3, 2}, {1, mostWide}, {mostWide, 1}, {6, 6}, {mostWide, mostWide}} {
+			for _, at := range placesIn(sides[0] * sides[1]) {
+				for _, kind := range append([]int{-1, 3, 4, 256, -2, 1 << 32, -1 << 32}, farInts...) {
+					m := open(sides[0], sides[1])
+					m.Cells[at] = kind
+					if !yield(m) {
+						return
+					}
+				}
+			}
+		}
+	}
 }
 
 func cloneCells(m impl.Cells) impl.Cells {
@@ -272,6 +305,18 @@ func placesOf(m impl.Cells) []int {
 		}
 	}
 	return places
+}
+
+// notFree are cells that are not free, and numbers that are no cells.
+func notFree(m impl.Cells) []int {
+	n := len(m.Cells)
+	wrong := append([]int{-1, n, n + 1, -n, n + m.Wide, 1 << 32, -1 << 32}, farInts...)
+	for at := range m.Cells {
+		if !isFree(m, at) {
+			wrong = append(wrong, at)
+		}
+	}
+	return wrong
 }
 
 // isPlaces: of good cells, rising, no two alike, and each free.

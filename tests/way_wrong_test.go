@@ -56,41 +56,24 @@ func checkNoMap(t *testing.T, m impl.Cells) {
 }
 
 func TestWaysOfWrongSides(t *testing.T) {
-	for wide := -2; wide <= mostWide+3; wide++ {
-		for _, n := range []int{0, 1, 2, 3, 4, 15, 16, 17, 31, 32, 33, 34, 255, 256, 257, 272, 288, 289} {
-			m := impl.Cells{Wide: wide, Cells: make([]int, n)}
-			if !isCells(m) {
-				checkNoMap(t, m)
-				continue
-			}
-			checkClear(t, m, 0, n-1)
-			checkMostClear(t, m, n-1)
-			checkList(t, m, []int{0})
-			if _, ok := impl.ShortestWay(m, 0, n-1); !ok {
-				t.Errorf("ShortestWay of %d, %d is false", wide, n)
-			}
+	for _, m := range manySides() {
+		if !isCells(m) {
+			checkNoMap(t, m)
+			continue
+		}
+		last := len(m.Cells) - 1
+		checkClear(t, m, 0, last)
+		checkMostClear(t, m, last)
+		checkList(t, m, []int{0})
+		if _, ok := impl.ShortestWay(m, 0, last); !ok {
+			t.Errorf("ShortestWay of %d, %d is false", m.Wide, last+1)
 		}
 	}
-	for _, wide := range append([]int{-16, -256, 256, 1 << 32, -1 << 32, 1<<62 + 1}, farInts...) {
-		for _, n := range []int{0, 1, 2, 16, 17, 256, 257} {
-			checkNoMap(t, impl.Cells{Wide: wide, Cells: make([]int, n)})
-		}
-	}
-	checkNoMap(t, impl.Cells{})
-	checkNoMap(t, impl.Cells{Wide: 1})
-	checkNoMap(t, impl.Cells{Wide: 1, Cells: []int{}})
 }
 
-// A number that is no kind of cell, at the first, a middle and the last place, far from what is asked too.
 func TestWaysOfWrongKinds(t *testing.T) {
-	for _, sides := range [][]int{{1, 1}, {3, 2}, {1, mostWide}, {mostWide, 1}, {mostWide, mostWide}} {
-		for _, at := range placesIn(sides[0] * sides[1]) {
-			for _, kind := range append([]int{-1, 3, 4, 256, -2, 1 << 32, -1 << 32}, farInts...) {
-				m := open(sides[0], sides[1])
-				m.Cells[at] = kind
-				checkNoMap(t, m)
-			}
-		}
+	for m := range wrongKinds() {
+		checkNoMap(t, m)
 	}
 }
 
@@ -98,13 +81,7 @@ func TestWaysOfWrongKinds(t *testing.T) {
 func TestWrongCellsInWays(t *testing.T) {
 	for _, m := range []impl.Cells{cellsOf("."), cellsOf("..#|?.."), open(mostWide, mostWide), cellsOf("#.|..")} {
 		n := len(m.Cells)
-		wrong := append([]int{-1, n, n + 1, -n, n + m.Wide, 1 << 32, -1 << 32}, farInts...)
-		for at := range m.Cells {
-			if !isFree(m, at) {
-				wrong = append(wrong, at)
-			}
-		}
-		for _, none := range wrong {
+		for _, none := range notFree(m) {
 			for _, other := range append(placesOf(m)[:min(4, len(placesOf(m)))], none, n-1, 0) {
 				checkNoTwo(t, m, none, other)
 				for _, cells := range [][]int{{none}, {none, other}, {other, none}, {other, none, other}, {none, none}} {
