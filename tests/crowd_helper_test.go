@@ -35,15 +35,20 @@ func numberOf(s string) int {
 	return n
 }
 
+// listOf has spaces between the numbers.
+func listOf(s string) []int {
+	l := []int{}
+	for _, one := range strings.Fields(s) {
+		l = append(l, numberOf(one))
+	}
+	return l
+}
+
 // pathsOf has bars between the paths, and spaces between the cells.
 func pathsOf(s string) [][]int {
 	paths := [][]int{}
-	for _, row := range square(s) {
-		path := []int{}
-		for _, at := range row {
-			path = append(path, numberOf(at))
-		}
-		paths = append(paths, path)
+	for path := range strings.SplitSeq(s, "|") {
+		paths = append(paths, listOf(path))
 	}
 	return paths
 }
