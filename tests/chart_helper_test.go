@@ -302,12 +302,12 @@ func drawnEvents(r *rand.Rand, n int) []int {
 	return l
 }
 
-// listsUpTo are all lists of up to most of the numbers, the shortest first.
-func listsUpTo(most int, numbers ...int) [][]int {
-	lists := [][]int{{}}
+// listsUpTo are all lists of up to most of the things, the shortest first.
+func listsUpTo[T any](most int, things ...T) [][]T {
+	lists := [][]T{{}}
 	for i := 0; len(lists[i]) < most; i++ {
-		for _, n := range numbers {
-			lists = append(lists, append(slices.Clone(lists[i]), n))
+		for _, one := range things {
+			lists = append(lists, append(slices.Clone(lists[i]), one))
 		}
 	}
 	return lists
